@@ -118,20 +118,20 @@ func someOut(l impl.Logic, places int, f func(numbers []int)) {
 	}
 }
 
-// newCentre fails if what CentreOf returns shares memory with the logic or with what it returns again.
-func newCentre(t *testing.T, l impl.Logic) {
+// newList fails if a list that a function makes of a logic shares memory with the logic or with what the function returns again.
+func newList(t *testing.T, what string, l impl.Logic, f func(l impl.Logic) []int) {
 	t.Helper()
 	rows, not := copied(l.Under), slices.Clone(l.Not)
-	first, second := impl.CentreOf(l), impl.CentreOf(l)
+	first, second := f(l), f(l)
 	kept := slices.Clone(second)
 	full := first[:cap(first)]
 	for i := range full {
 		full[i] = 99
 	}
-	if !slices.Equal(second, kept) || !slices.Equal(impl.CentreOf(l), kept) {
-		t.Fatalf("CentreOf(%v): two results share memory", l)
+	if !slices.Equal(second, kept) || !slices.Equal(f(l), kept) {
+		t.Fatalf("%s(%v): two results share memory", what, l)
 	}
 	if !sameRows(l.Under, rows) || !slices.Equal(l.Not, not) {
-		t.Fatalf("CentreOf(%v) shares memory with the logic", l)
+		t.Fatalf("%s(%v) shares memory with the logic", what, l)
 	}
 }

@@ -145,18 +145,7 @@ func TestAgreeingBothWaysIsTheLaw(t *testing.T) {
 }
 
 func TestAgreeingIsToldAsThePartsDo(t *testing.T) {
-	few := fewLogics()
-	for _, l := range few {
-		for _, m := range few {
-			both := impl.BothWaysOk(l) && impl.BothWaysOk(m)
-			if glued, ok := impl.GluedOf(l, m); ok && impl.BothWaysOk(glued) != both {
-				t.Fatalf("%v and %v glued", l, m)
-			}
-			if product, ok := impl.TimesOf(l, m); ok && impl.BothWaysOk(product) != both {
-				t.Fatalf("%v times %v", l, m)
-			}
-		}
-	}
+	toldAsParts(t, impl.BothWaysOk)
 }
 
 // Pairs that agree one way alone: those of the ring, and those that a product has of it.
@@ -240,7 +229,7 @@ func TestTheCentreIsAPart(t *testing.T) {
 		if !slices.Contains(centre, no) || !slices.Contains(centre, yes) {
 			t.Fatalf("%v: the centre %v has not no and yes", l, centre)
 		}
-		newCentre(t, l)
+		newList(t, "CentreOf", l, impl.CentreOf)
 	}
 }
 
@@ -256,24 +245,17 @@ func TestTheCentreOfSetsIsAll(t *testing.T) {
 }
 
 func TestCentresOfProductsArePairsOfCentres(t *testing.T) {
-	few := fewLogics()
-	for _, l := range few {
-		for _, m := range few {
-			product, ok := impl.TimesOf(l, m)
-			if !ok {
-				continue
-			}
-			var want []int
-			for _, a := range impl.CentreOf(l) {
-				for _, b := range impl.CentreOf(m) {
-					want = append(want, a*len(m.Not)+b)
-				}
-			}
-			if centre := impl.CentreOf(product); !slices.Equal(centre, want) {
-				t.Fatalf("%v times %v has the centre %v", l, m, centre)
+	eachTwo(impl.TimesOf, func(l, m, product impl.Logic) {
+		var want []int
+		for _, a := range impl.CentreOf(l) {
+			for _, b := range impl.CentreOf(m) {
+				want = append(want, a*len(m.Not)+b)
 			}
 		}
-	}
+		if centre := impl.CentreOf(product); !slices.Equal(centre, want) {
+			t.Fatalf("%v times %v has the centre %v", l, m, centre)
+		}
+	})
 }
 
 // Promise 25: what is told apart wholly.

@@ -62,17 +62,8 @@ func TestSetsKeepTheLawAndTheRingDoesNot(t *testing.T) {
 }
 
 func TestTheLawIsKeptIfPartsKeepIt(t *testing.T) {
-	few := fewLogics()
-	for _, l := range few {
-		for _, m := range few {
-			both := impl.KeepsOk(l) && impl.KeepsOk(m)
-			if glued, ok := impl.GluedOf(l, m); ok && impl.KeepsOk(glued) != both {
-				t.Fatalf("%v and %v glued", l, m)
-			}
-			if product, ok := impl.TimesOf(l, m); ok && impl.KeepsOk(product) != both {
-				t.Fatalf("%v times %v", l, m)
-			}
-		}
+	toldAsParts(t, impl.KeepsOk)
+	for _, l := range fewLogics() {
 		for _, row := range ordersOf(len(l.Not)) {
 			if impl.KeepsOk(impl.Renamed(l, row)) != impl.KeepsOk(l) {
 				t.Fatalf("%v in the order %v", l, row)

@@ -75,6 +75,30 @@ func fewLogics() []impl.Logic {
 	return out
 }
 
+// eachTwo calls f with each two of a few logics, in both orders, and with what a function makes of them, if it can.
+func eachTwo(makes func(l impl.Logic, m impl.Logic) (impl.Logic, bool), f func(l, m, made impl.Logic)) {
+	few := fewLogics()
+	for _, l := range few {
+		for _, m := range few {
+			if made, ok := makes(l, m); ok {
+				f(l, m, made)
+			}
+		}
+	}
+}
+
+// toldAsParts fails if glued logics or products are told to be so though a part of theirs is not, or are not though both are.
+func toldAsParts(t *testing.T, told func(l impl.Logic) bool) {
+	t.Helper()
+	for what, makes := range map[string]func(impl.Logic, impl.Logic) (impl.Logic, bool){"glued": impl.GluedOf, "a product": impl.TimesOf} {
+		eachTwo(makes, func(l, m, made impl.Logic) {
+			if told(made) != (told(l) && told(m)) {
+				t.Fatalf("%v and %v, %s", l, m, what)
+			}
+		})
+	}
+}
+
 // mixed returns the numbers of n answers in an order that has its first and last numbers inside, and that turned back is another one, for n above 4.
 func mixed(n int) []int {
 	out := []int{}
