@@ -457,18 +457,12 @@ func TestAgreeingRefusesBadNumbers(t *testing.T) {
 }
 
 func TestAgreeingWritesToNoArguments(t *testing.T) {
-	logics := lawLogics()
-	for _, l := range badLogics() {
-		logics = append(logics, l)
-	}
-	for _, l := range logics {
-		untouchedLogic(t, l, func(l impl.Logic) {
-			last := len(l.Not) - 1
-			impl.WithOk(l, 0, last)
-			impl.BothWaysOk(l)
-			impl.CentreOf(l)
-			impl.ApartFrom(l, last, 0)
-			impl.SplitOk(l, 0, last/2, last)
-		})
-	}
+	untouchedLogics(t, lawLogics(), func(l impl.Logic) {
+		last := len(l.Not) - 1
+		impl.WithOk(l, 0, last)
+		impl.BothWaysOk(l)
+		impl.CentreOf(l)
+		impl.ApartFrom(l, last, 0)
+		impl.SplitOk(l, 0, last/2, last)
+	})
 }

@@ -386,16 +386,10 @@ func TestNoSetHasMoreThanTheAnswers(t *testing.T) {
 }
 
 func TestBlocksWriteToNoArguments(t *testing.T) {
-	logics := lawLogics()
-	for _, l := range badLogics() {
-		logics = append(logics, l)
-	}
-	for _, l := range logics {
-		untouchedLogic(t, l, func(l impl.Logic) {
-			impl.AgreeOk(l, 3)
-			impl.BlocksOf(l)
-			impl.BooleanOk(l)
-			impl.BlocksWith(l, len(l.Not)-1)
-		})
-	}
+	untouchedLogics(t, lawLogics(), func(l impl.Logic) {
+		impl.AgreeOk(l, 3)
+		impl.BlocksOf(l)
+		impl.BooleanOk(l)
+		impl.BlocksWith(l, len(l.Not)-1)
+	})
 }

@@ -431,19 +431,13 @@ func TestTheLawRefusesBadSets(t *testing.T) {
 }
 
 func TestTheLawWritesToNoArguments(t *testing.T) {
-	logics := lawLogics()
-	for _, l := range badLogics() {
-		logics = append(logics, l)
-	}
-	for _, l := range logics {
-		untouchedLogic(t, l, func(l impl.Logic) {
-			all := 1<<len(l.Not) - 1
-			impl.KeepsOk(l)
-			impl.BreakOf(l)
-			impl.SubOk(l, all)
-			impl.MadeBy(l, 2)
-			impl.PartOf(l, all)
-			impl.PartOf(l, 1)
-		})
-	}
+	untouchedLogics(t, lawLogics(), func(l impl.Logic) {
+		all := 1<<len(l.Not) - 1
+		impl.KeepsOk(l)
+		impl.BreakOf(l)
+		impl.SubOk(l, all)
+		impl.MadeBy(l, 2)
+		impl.PartOf(l, all)
+		impl.PartOf(l, 1)
+	})
 }

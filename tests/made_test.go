@@ -357,24 +357,18 @@ func TestRenamedByAllSmallRows(t *testing.T) {
 // The rules for all functions: arguments that are not written to.
 
 func TestMakingWritesToNoArguments(t *testing.T) {
-	logics := fewLogics()
-	for _, l := range badLogics() {
-		logics = append(logics, l)
-	}
-	for _, l := range logics {
-		untouchedLogic(t, l, func(l impl.Logic) {
-			impl.GluedOf(l, star(4))
-			impl.GluedOf(star(4), l)
-			impl.TimesOf(l, star(2))
-			impl.TimesOf(star(2), l)
-			row := append(make([]int, 0, len(l.Not)+2), backwards(len(l.Not))...)
-			impl.Renamed(l, row)
-			behind := row[:cap(row)]
-			if !slices.Equal(row, backwards(len(l.Not))) || behind[len(row)] != 0 || behind[len(row)+1] != 0 {
-				t.Fatalf("a row became %v", behind)
-			}
-		})
-	}
+	untouchedLogics(t, fewLogics(), func(l impl.Logic) {
+		impl.GluedOf(l, star(4))
+		impl.GluedOf(star(4), l)
+		impl.TimesOf(l, star(2))
+		impl.TimesOf(star(2), l)
+		row := append(make([]int, 0, len(l.Not)+2), backwards(len(l.Not))...)
+		impl.Renamed(l, row)
+		behind := row[:cap(row)]
+		if !slices.Equal(row, backwards(len(l.Not))) || behind[len(row)] != 0 || behind[len(row)+1] != 0 {
+			t.Fatalf("a row became %v", behind)
+		}
+	})
 }
 
 // What was made can be made of again, up to just MaxAnswers answers.

@@ -231,3 +231,14 @@ func untouchedLogic(t *testing.T, l impl.Logic, f func(l impl.Logic)) {
 		t.Fatalf("opposites %v became %v", l.Not, behind)
 	}
 }
+
+// untouchedLogics runs f with each of the logics and with each one that is none, and fails if it is written to.
+func untouchedLogics(t *testing.T, logics []impl.Logic, f func(l impl.Logic)) {
+	t.Helper()
+	for _, l := range badLogics() {
+		logics = append(logics, l)
+	}
+	for _, l := range logics {
+		untouchedLogic(t, l, f)
+	}
+}

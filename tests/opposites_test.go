@@ -397,20 +397,14 @@ func TestOppositesRefuseBadNumbers(t *testing.T) {
 }
 
 func TestLogicsAreNotWrittenTo(t *testing.T) {
-	logics := someLogics()
-	for _, l := range badLogics() {
-		logics = append(logics, l)
-	}
-	for _, l := range logics {
-		untouchedLogic(t, l, func(l impl.Logic) {
-			last := len(l.Not) - 1
-			impl.LogicOk(l)
-			impl.AndOf(l, 0, last)
-			impl.OrOf(l, 0, last)
-			impl.NotOf(l, last)
-			impl.NoOf(l)
-			impl.YesOf(l)
-			impl.ApartOk(l, 0, last)
-		})
-	}
+	untouchedLogics(t, someLogics(), func(l impl.Logic) {
+		last := len(l.Not) - 1
+		impl.LogicOk(l)
+		impl.AndOf(l, 0, last)
+		impl.OrOf(l, 0, last)
+		impl.NotOf(l, last)
+		impl.NoOf(l)
+		impl.YesOf(l)
+		impl.ApartOk(l, 0, last)
+	})
 }
