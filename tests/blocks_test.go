@@ -198,11 +198,7 @@ func TestBlocksOfProductsArePairsOfBlocks(t *testing.T) {
 // Promise 29: logics that are as sets are.
 
 func TestBooleanOkOfKnownLogics(t *testing.T) {
-	tests := []struct {
-		what    string
-		l       impl.Logic
-		boolean bool
-	}{
+	sameAsTold(t, "BooleanOk", impl.BooleanOk, []told{
 		{"one answer", alone(), true},
 		{"no and yes", star(2), true},
 		{"yes and no", swapped(), true},
@@ -222,12 +218,7 @@ func TestBooleanOkOfKnownLogics(t *testing.T) {
 		{"a ring of eight", ring(8), false},
 		{"two by the ring", pairsOf(star(2), ring(6)), false},
 		{"the ring glued", gluedTo(sets(2), ring(6)), false},
-	}
-	for _, x := range tests {
-		if ok := impl.BooleanOk(x.l); ok != x.boolean {
-			t.Errorf("%s: BooleanOk(%v) = %v", x.what, x.l, ok)
-		}
-	}
+	})
 }
 
 func TestOneBlockIsSets(t *testing.T) {
