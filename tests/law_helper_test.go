@@ -3,8 +3,10 @@ package tests
 import (
 	"math"
 	"math/bits"
+	"runtime"
 	"slices"
 	"testing"
+	"time"
 
 	"loop.example/orthologics/impl"
 )
@@ -229,5 +231,29 @@ func sameBreak(t *testing.T, what string, l impl.Logic, want []int) {
 	}
 	if a != want[0] || b != want[1] || ok != (want[0] >= 0) {
 		t.Fatalf("%s: BreakOf(%v) = %d, %d, %v; want %v", what, l, a, b, ok, want)
+	}
+}
+
+// noneLeft fails if there are more goroutines after some rounds of calls than ahead of them.
+func noneLeft(t *testing.T, rounds int, calls func()) {
+	t.Helper()
+	before := runtime.NumGoroutine()
+	for range rounds {
+		calls()
+	}
+	// One that has done its work may still be about to end.
+	for range 500 {
+		if runtime.NumGoroutine() <= before {
+			return
+		}
+		time.Sleep(10 * time.Millisecond)
+	}
+	t.Errorf("%d goroutines became %d", before, runtime.NumGoroutine())
+}
+
+// wipe writes noughts into all lists of a logic.
+func wipe(l impl.Logic) {
+	for _, list := range listsOf(l) {
+		clear(list)
 	}
 }

@@ -4,7 +4,6 @@ import (
 	"runtime"
 	"slices"
 	"testing"
-	"time"
 
 	"loop.example/orthologics/impl"
 )
@@ -181,20 +180,11 @@ func TestTheFirstPairIsToldTimeAndAgain(t *testing.T) {
 }
 
 func TestNoGoroutineIsLeft(t *testing.T) {
-	before := runtime.NumGoroutine()
-	for range 50 {
+	noneLeft(t, 50, func() {
 		impl.BreakOf(ring(12))
 		impl.BreakOf(star(12))
 		impl.BreakOf(impl.Logic{})
-	}
-	// One that has done its work may still be about to end.
-	for range 500 {
-		if runtime.NumGoroutine() <= before {
-			return
-		}
-		time.Sleep(10 * time.Millisecond)
-	}
-	t.Errorf("%d goroutines became %d", before, runtime.NumGoroutine())
+	})
 }
 
 // What is returned does not depend on what becomes of the logic later, as it would if goroutines still read it.
@@ -202,10 +192,7 @@ func TestLogicsMayChangeBehindTheCall(t *testing.T) {
 	for range 100 {
 		l := ring(12)
 		sameBreak(t, "a ring of twelve", l, []int{1, 2})
-		clear(l.Not)
-		for _, row := range l.Under {
-			clear(row)
-		}
+		wipe(l)
 	}
 }
 
